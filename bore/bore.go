@@ -4,6 +4,7 @@ package bore
 
 import (
 	"meniscus/api"
+	"meniscus/lists"
 )
 
 // Range is all whole numbers from Lo up to Hi.
@@ -32,11 +33,11 @@ func CheckTube(t Tube) api.Errno {
 
 // ProveTruth reports whether the volumes are a truth of the readings.
 func ProveTruth(t Tube, l []Reading, volumes []int) bool {
-	if check(t, l) != api.OK || len(volumes) != t.Cells || !all(volumes, t.Cell.has) {
+	if check(t, l) != api.OK || len(volumes) != t.Cells || !lists.All(volumes, t.Cell.has) {
 		return false
 	}
 	h := heightsOf(volumes)
-	return h[t.Cells] == t.Total && all(l, h.agree)
+	return h[t.Cells] == t.Total && lists.All(l, h.agree)
 }
 
 // Heights returns the bounds of all marks.
@@ -97,7 +98,7 @@ func Knot(t Tube, l []Reading) ([]int, api.Errno) {
 
 // ProveKnot reports whether the list is a knot of the readings.
 func ProveKnot(t Tube, l []Reading, knot []int) bool {
-	if check(t, l) != api.OK || !rises(knot) || !all(knot, Range{Lo: 0, Hi: len(l) - 1}.has) {
+	if check(t, l) != api.OK || !rises(knot) || !lists.All(knot, Range{Lo: 0, Hi: len(l) - 1}.has) {
 		return false
 	}
 	return contradict(t, l, knot) && len(knotOf(t, l, knot)) == len(knot)

@@ -2,6 +2,7 @@ package bore
 
 import (
 	"meniscus/api"
+	"meniscus/lists"
 )
 
 func (r Range) has(number int) bool { return r.Lo <= number && number <= r.Hi }
@@ -34,7 +35,7 @@ func check(t Tube, l []Reading) api.Errno {
 	if len(l) > api.MaxBoreReadings {
 		return api.ErrLimit
 	}
-	if !all(l, t.allows) {
+	if !lists.All(l, t.allows) {
 		return api.ErrRange
 	}
 	return api.OK
@@ -73,10 +74,10 @@ func heightsOf(volumes []int) heights {
 
 // agree reports whether the reading is right with these heights.
 func (h heights) agree(r Reading) bool {
-	low := greatest(r.Volume.Lo, h[r.In]-h[r.From])
+	low := lists.Greatest(r.Volume.Lo, h[r.In]-h[r.From])
 	high := r.Volume.Hi
 	if r.In+1 < len(h) {
-		high = least(high, h[r.In+1]-h[r.From]-1)
+		high = lists.Least(high, h[r.In+1]-h[r.From]-1)
 	}
 	return low <= high
 }

@@ -1,41 +1,13 @@
 package bore
 
-import "slices"
+import (
+	"slices"
 
-func all[T any](list []T, holds func(T) bool) bool {
-	for _, x := range list {
-		if !holds(x) {
-			return false
-		}
-	}
-	return true
-}
-
-func least(first int, others ...int) int {
-	for _, n := range others {
-		if n < first {
-			first = n
-		}
-	}
-	return first
-}
-
-func greatest(first int, others ...int) int {
-	for _, n := range others {
-		if n > first {
-			first = n
-		}
-	}
-	return first
-}
+	"meniscus/lists"
+)
 
 func rises(list []int) bool {
-	for i := 1; i < len(list); i++ {
-		if list[i] <= list[i-1] {
-			return false
-		}
-	}
-	return true
+	return lists.InOrder(list, func(element, next int) bool { return element < next })
 }
 
 func numbersBelow(end int) []int {

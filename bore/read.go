@@ -4,6 +4,7 @@ import (
 	"iter"
 
 	"meniscus/api"
+	"meniscus/lists"
 )
 
 // climbs has, for the marks i and j, how much higher j can be than i, at most.
@@ -71,7 +72,7 @@ func (b *readTube) limit(from, to, most int) bool {
 	for i := 0; i <= b.Cells; i++ {
 		for j := 0; j <= b.Cells; j++ {
 			over := b.climb[i][from] + most + b.climb[to][j]
-			b.climb[i][j] = least(b.climb[i][j], over)
+			b.climb[i][j] = lists.Least(b.climb[i][j], over)
 		}
 	}
 	return true
@@ -110,7 +111,7 @@ func (b readTube) volumesAt(end func(b readTube, mark int) int) []int {
 func (b readTube) doubt() int {
 	doubt := 0
 	for _, r := range b.bounds() {
-		doubt = greatest(doubt, r.Hi-r.Lo)
+		doubt = lists.Greatest(doubt, r.Hi-r.Lo)
 	}
 	return doubt
 }
@@ -131,7 +132,7 @@ func (b readTube) doubtBehind(mark int, volume Range) int {
 	doubt := 0
 	for in := range b.cellsFrom(mark) {
 		if more, ok := b.with(Reading{From: mark, In: in, Volume: volume}); ok {
-			doubt = greatest(doubt, more.doubt())
+			doubt = lists.Greatest(doubt, more.doubt())
 		}
 	}
 	return doubt
@@ -143,7 +144,7 @@ func (b readTube) best(volume Range) (mark, doubt int) {
 	for from := 0; from < b.Cells; from++ {
 		doubts = append(doubts, b.doubtBehind(from, volume))
 	}
-	doubt = least(doubts[0], doubts[1:]...)
+	doubt = lists.Least(doubts[0], doubts[1:]...)
 	for doubts[mark] != doubt {
 		mark++
 	}

@@ -1,0 +1,53 @@
+package lists_test
+
+import (
+	"math"
+	"testing"
+
+	"meniscus/lists"
+)
+
+func TestAll(t *testing.T) {
+	even := func(n int) bool { return n%2 == 0 }
+	for _, x := range []struct {
+		list []int
+		want bool
+	}{
+		{nil, true}, {[]int{2}, true}, {[]int{2, 4, 6}, true}, {[]int{1}, false}, {[]int{1, 2}, false}, {[]int{2, 1}, false},
+	} {
+		if lists.All(x.list, even) != x.want {
+			t.Errorf("%v: not %v", x.list, x.want)
+		}
+	}
+}
+
+func TestInOrder(t *testing.T) {
+	rises := func(element, next int) bool { return element < next }
+	for _, x := range []struct {
+		list []int
+		want bool
+	}{
+		{nil, true}, {[]int{2}, true}, {[]int{2, 4, 6}, true}, {[]int{2, 2}, false}, {[]int{4, 2, 6}, false}, {[]int{2, 4, 3}, false},
+	} {
+		if lists.InOrder(x.list, rises) != x.want {
+			t.Errorf("%v: not %v", x.list, x.want)
+		}
+	}
+}
+
+func TestLeastAndGreatest(t *testing.T) {
+	for _, x := range []struct {
+		list            []int
+		least, greatest int
+	}{
+		{[]int{3}, 3, 3}, {[]int{3, 5, -2}, -2, 5}, {[]int{-2, 3}, -2, 3}, {[]int{7, 7}, 7, 7}, {[]int{math.MaxInt, math.MinInt}, math.MinInt, math.MaxInt},
+	} {
+		first, others := x.list[0], x.list[1:]
+		if got := lists.Least(first, others...); got != x.least {
+			t.Errorf("the least of %v: %d", x.list, got)
+		}
+		if got := lists.Greatest(first, others...); got != x.greatest {
+			t.Errorf("the greatest of %v: %d", x.list, got)
+		}
+	}
+}
