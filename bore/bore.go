@@ -98,7 +98,7 @@ func Knot(t Tube, l []Reading) ([]int, api.Errno) {
 
 // ProveKnot reports whether the list is a knot of the readings.
 func ProveKnot(t Tube, l []Reading, knot []int) bool {
-	if check(t, l) != api.OK || !rises(knot) || !lists.All(knot, Range{Lo: 0, Hi: len(l) - 1}.has) {
+	if check(t, l) != api.OK || !lists.Rises(knot) || !lists.All(knot, Range{Lo: 0, Hi: len(l) - 1}.has) {
 		return false
 	}
 	return contradict(t, l, knot) && len(knotOf(t, l, knot)) == len(knot)

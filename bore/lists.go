@@ -1,14 +1,6 @@
 package bore
 
-import (
-	"slices"
-
-	"meniscus/lists"
-)
-
-func rises(list []int) bool {
-	return lists.InOrder(list, func(element, next int) bool { return element < next })
-}
+import "slices"
 
 func numbersBelow(end int) []int {
 	list := make([]int, 0, end)

@@ -22,6 +22,11 @@ func InOrder[T any](list []T, mayPrecede func(element, next T) bool) bool {
 	return true
 }
 
+// Rises reports whether each number is greater than the one before it.
+func Rises(numbers []int) bool {
+	return InOrder(numbers, func(number, next int) bool { return number < next })
+}
+
 // Least returns the least of the numbers.
 func Least(first int, others ...int) int {
 	for _, n := range others {

@@ -35,6 +35,19 @@ func TestInOrder(t *testing.T) {
 	}
 }
 
+func TestRises(t *testing.T) {
+	for _, x := range []struct {
+		numbers []int
+		want    bool
+	}{
+		{nil, true}, {[]int{-2}, true}, {[]int{math.MinInt, -1, 0, math.MaxInt}, true}, {[]int{2, 2}, false}, {[]int{2, 4, 4}, false}, {[]int{2, 1, 3}, false},
+	} {
+		if lists.Rises(x.numbers) != x.want {
+			t.Errorf("%v: not %v", x.numbers, x.want)
+		}
+	}
+}
+
 func TestLeastAndGreatest(t *testing.T) {
 	for _, x := range []struct {
 		list            []int
