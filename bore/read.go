@@ -3,32 +3,28 @@ package bore
 import (
 	"iter"
 
-	"meniscus/api"
+	"meniscus/gaps"
 	"meniscus/lists"
 )
 
-// climbs has, for the marks i and j, how much higher j can be than i, at most.
-type climbs [api.MaxBoreCells + 1][api.MaxBoreCells + 1]int
-
-// readTube is a tube with all that its cells and its readings say together:
-// no way over other marks says more than climb says of two marks at once, so
-// each of these numbers is reached by a truth.
+// readTube is a tube with all that its cells and its readings say together: its
+// marks are the things that are apart.
 type readTube struct {
 	Tube
-	climb climbs
+	gaps.Gaps
 }
 
 // unread is the tube without readings.
 func unread(t Tube) readTube {
-	b := readTube{Tube: t}
+	b := readTube{Tube: t, Gaps: gaps.Gaps{Things: t.Cells + 1}}
 	for low := 0; low <= t.Cells; low++ {
 		for high := low; high <= t.Cells; high++ {
-			b.climb[low][high] = (high - low) * t.Cell.Hi
-			b.climb[high][low] = (low - high) * t.Cell.Lo
+			b.Most[low][high] = (high - low) * t.Cell.Hi
+			b.Most[high][low] = (low - high) * t.Cell.Lo
 		}
 	}
-	b.limit(0, t.Cells, t.Total)
-	b.limit(t.Cells, 0, -t.Total)
+	b.Limit(0, t.Cells, t.Total)
+	b.Limit(t.Cells, 0, -t.Total)
 	return b
 }
 
@@ -53,57 +49,37 @@ func read(t Tube, l []Reading) (readTube, bool) {
 // As no cell is empty, a number of Volume that is not below the height of In
 // and one that is below that of the next mark can always be the same.
 func (b readTube) with(r Reading) (readTube, bool) {
-	if !b.limit(r.From, r.In, r.Volume.Hi) {
+	if !b.Limit(r.From, r.In, r.Volume.Hi) {
 		return readTube{}, false
 	}
-	if r.In < b.Cells && !b.limit(r.In+1, r.From, -r.Volume.Lo-1) {
+	if r.In < b.Cells && !b.Limit(r.In+1, r.From, -r.Volume.Lo-1) {
 		return readTube{}, false
 	}
 	return b, true
 }
 
-// limit notes that the mark to is at most so much higher than from, or reports
-// that it cannot be. It may write where it reads: the ways to from, and from
-// to, are not made shorter by a way over both.
-func (b *readTube) limit(from, to, most int) bool {
-	if most+b.climb[to][from] < 0 {
-		return false
-	}
-	for i := 0; i <= b.Cells; i++ {
-		for j := 0; j <= b.Cells; j++ {
-			over := b.climb[i][from] + most + b.climb[to][j]
-			b.climb[i][j] = lists.Least(b.climb[i][j], over)
-		}
-	}
-	return true
-}
-
-func (b readTube) lowest(mark int) int { return -b.climb[mark][0] }
-
-func (b readTube) highest(mark int) int { return b.climb[0][mark] }
-
 // ends tell the ends of the bounds of a mark.
 type ends struct {
-	lo, hi func(b readTube, mark int) int
+	lo, hi func(b *readTube, mark int) int
 }
 
-func bothEnds() ends { return ends{lo: readTube.lowest, hi: readTube.highest} }
+func bothEnds() ends { return ends{lo: (*readTube).Lowest, hi: (*readTube).Highest} }
 
 func (b readTube) bounds() []Range {
 	e := bothEnds()
 	list := make([]Range, 0, b.Cells+1)
 	for mark := 0; mark <= b.Cells; mark++ {
-		list = append(list, Range{Lo: e.lo(b, mark), Hi: e.hi(b, mark)})
+		list = append(list, Range{Lo: e.lo(&b, mark), Hi: e.hi(&b, mark)})
 	}
 	return list
 }
 
 // volumesAt are those of the truth in which each mark is at this end: all marks
 // reach their lower ends together, and their upper ones too.
-func (b readTube) volumesAt(end func(b readTube, mark int) int) []int {
+func (b readTube) volumesAt(end func(b *readTube, mark int) int) []int {
 	volumes := make([]int, 0, b.Cells)
 	for cell := 0; cell < b.Cells; cell++ {
-		volumes = append(volumes, end(b, cell+1)-end(b, cell))
+		volumes = append(volumes, end(&b, cell+1)-end(&b, cell))
 	}
 	return volumes
 }
