@@ -38,14 +38,14 @@ func (d dice) smallSeries(most int) bath.Series {
 
 // anySeries is as large as the limits let it be, and has a truth, which is told.
 func (d dice) anySeries() (bath.Series, truth) {
-	error := d.IntN(api.MaxBathError + 1)
-	return d.series(d.from(1, api.MaxBathInstruments), d.from(0, api.MaxBathBaths), error, d.from(0, 200), error)
+	err := d.IntN(api.MaxBathError + 1)
+	return d.series(d.from(1, api.MaxBathInstruments), d.from(0, api.MaxBathBaths), err, d.from(0, 200), err)
 }
 
 // series has ranges of at most this width, and Values that are out by at most so
 // much in the truth that is told.
-func (d dice) series(instruments, baths, error, width, out int) (bath.Series, truth) {
-	s, t := bath.Series{Error: error}, truth{}
+func (d dice) series(instruments, baths, err, width, out int) (bath.Series, truth) {
+	s, t := bath.Series{Error: err}, truth{}
 	for range instruments {
 		r := d.part(-api.MaxBathOffset, api.MaxBathOffset, width)
 		s.Offsets, t.offsets = append(s.Offsets, r), append(t.offsets, d.of(r))
