@@ -46,3 +46,12 @@ func Greatest(first int, others ...int) int {
 	}
 	return first
 }
+
+// Sum returns the sum of the numbers.
+func Sum(numbers ...int) int {
+	sum := 0
+	for _, n := range numbers {
+		sum += n
+	}
+	return sum
+}

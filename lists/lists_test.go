@@ -64,3 +64,16 @@ func TestLeastAndGreatest(t *testing.T) {
 		}
 	}
 }
+
+func TestSum(t *testing.T) {
+	for _, x := range []struct {
+		numbers []int
+		want    int
+	}{
+		{nil, 0}, {[]int{3}, 3}, {[]int{3, 5, -2}, 6}, {[]int{math.MaxInt, math.MinInt}, -1},
+	} {
+		if got := lists.Sum(x.numbers...); got != x.want {
+			t.Errorf("the sum of %v: %d", x.numbers, got)
+		}
+	}
+}
