@@ -1,6 +1,11 @@
 // Package lists has the small functions on lists that several layers use.
 package lists
 
+import (
+	"iter"
+	"slices"
+)
+
 // All reports whether each element of the list holds.
 func All[T any](list []T, holds func(T) bool) bool {
 	for _, x := range list {
@@ -54,4 +59,28 @@ func Sum(numbers ...int) int {
 		sum += n
 	}
 	return sum
+}
+
+// Choices are all rising lists of numbers from 0 on that are below the end: the
+// shorter ones first, of one length the lesser ones first.
+func Choices(end int) iter.Seq[[]int] {
+	return func(yield func(numbers []int) bool) {
+		var choose func(chosen []int, first, more int) bool
+		choose = func(chosen []int, first, more int) bool {
+			if more == 0 {
+				return yield(slices.Clone(chosen))
+			}
+			for number := first; number < end; number++ {
+				if !choose(append(chosen, number), number+1, more-1) {
+					return false
+				}
+			}
+			return true
+		}
+		for many := range end + 1 {
+			if !choose(nil, 0, many) {
+				return
+			}
+		}
+	}
 }

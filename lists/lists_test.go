@@ -2,6 +2,7 @@ package lists_test
 
 import (
 	"math"
+	"slices"
 	"testing"
 
 	"meniscus/lists"
@@ -74,6 +75,50 @@ func TestSum(t *testing.T) {
 	} {
 		if got := lists.Sum(x.numbers...); got != x.want {
 			t.Errorf("the sum of %v: %d", x.numbers, got)
+		}
+	}
+}
+
+func TestChoices(t *testing.T) {
+	for _, x := range []struct {
+		end  int
+		want [][]int
+	}{
+		{0, [][]int{nil}},
+		{1, [][]int{nil, {0}}},
+		{3, [][]int{nil, {0}, {1}, {2}, {0, 1}, {0, 2}, {1, 2}, {0, 1, 2}}},
+	} {
+		if got := slices.Collect(lists.Choices(x.end)); !slices.EqualFunc(got, x.want, slices.Equal[[]int]) {
+			t.Errorf("below %d: %v", x.end, got)
+		}
+	}
+}
+
+// All lists are handed out once, in their order, and can be kept.
+func TestManyChoices(t *testing.T) {
+	all := slices.Collect(lists.Choices(8))
+	inOrder := func(a, b []int) bool {
+		return len(a) < len(b) || len(a) == len(b) && slices.Compare(a, b) < 0
+	}
+	below := func(numbers []int) bool {
+		return lists.Rises(numbers) && lists.All(numbers, func(n int) bool { return 0 <= n && n < 8 })
+	}
+	if len(all) != 1<<8 || !lists.InOrder(all, inOrder) || !lists.All(all, below) {
+		t.Errorf("%v", all)
+	}
+}
+
+// Who stops asks for no more.
+func TestChoicesLeft(t *testing.T) {
+	for stop := range 1 << 4 {
+		asked := 0
+		for range lists.Choices(4) {
+			if asked++; asked == stop+1 {
+				break
+			}
+		}
+		if asked != stop+1 {
+			t.Errorf("left behind %d: %d", stop+1, asked)
 		}
 	}
 }

@@ -1,7 +1,6 @@
 package order
 
 import (
-	"iter"
 	"slices"
 
 	"meniscus/lists"
@@ -31,30 +30,6 @@ func (h House) allOrders() []int {
 // wanted is how many instruments all orders want.
 func (h House) wanted() int { return h.total(h.allOrders(), Order.wanted) }
 
-// choices are all rising lists of orders: the shorter ones first, of one length
-// the lesser ones first.
-func (h House) choices() iter.Seq[[]int] {
-	return func(yield func(orders []int) bool) {
-		var choose func(chosen []int, first, more int) bool
-		choose = func(chosen []int, first, more int) bool {
-			if more == 0 {
-				return yield(slices.Clone(chosen))
-			}
-			for order := first; order < len(h.Orders); order++ {
-				if !choose(append(chosen, order), order+1, more-1) {
-					return false
-				}
-			}
-			return true
-		}
-		for many := range len(h.Orders) + 1 {
-			if !choose(nil, 0, many) {
-				return
-			}
-		}
-	}
-}
-
 // manyFitting counts the instruments that fit at least one of the orders.
 func (w work) manyFitting(orders []int) int {
 	many := 0
@@ -77,7 +52,7 @@ func (w work) atMost(orders []int) int { return w.wanted() - w.lack(orders) }
 // most. There always are some: what cannot be sent is lacked by those orders that
 // look for it in vain, and by those that they ask.
 func (w work) proofOf(most int) []int {
-	for orders := range w.choices() {
+	for orders := range lists.Choices(len(w.Orders)) {
 		if w.atMost(orders) == most {
 			return orders
 		}
@@ -92,7 +67,7 @@ func (w work) goTogether(orders []int) bool {
 // best looks at fewer orders first, so of several that are worth as much it has
 // the right ones.
 func (w work) best() (orders []int, worth int) {
-	for choice := range w.choices() {
+	for choice := range lists.Choices(len(w.Orders)) {
 		if more := w.total(choice, Order.worth); more > worth && w.goTogether(choice) {
 			orders, worth = choice, more
 		}
